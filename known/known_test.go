@@ -474,6 +474,26 @@ func TestLong(t *testing.T) {
 	}
 }
 
+// TestOneByOne: of all nodes of a long chain, one by one: where nothing comes of
+// the kid that has little below it, the other one isn't gone through.
+func TestOneByOne(t *testing.T) {
+	for _, o := range []api.Op{api.Add, api.Sub, api.Xor} {
+		for _, isFirst := range []bool{true, false} {
+			m := newMaker(t)
+			v := m.variable(8, 0)
+			id := m.op(api.Shl, 8, v, m.constant(8, 2))
+			for range 100000 {
+				kids := []int{id, v}
+				if isFirst {
+					slices.Reverse(kids)
+				}
+				id = m.op(o, 8, kids...)
+				m.is(id, "????????")
+			}
+		}
+	}
+}
+
 // randomly is a store of nodes that are drawn, with a rich choice of sure bits.
 func randomly(t *testing.T, r *rand.Rand, count int) maker {
 	m := newMaker(t)
