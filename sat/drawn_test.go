@@ -6,7 +6,10 @@ import (
 	"testing"
 
 	"augury/api"
+	"augury/blast"
 	"augury/sat"
+	"augury/term"
+	"augury/text"
 )
 
 // drawnBudget is one that is met now and then.
@@ -278,5 +281,42 @@ func TestFewOfMany(t *testing.T) {
 			c.Clauses = append(c.Clauses, l)
 		}
 		made(t, c).want(api.SatNo)
+	}
+}
+
+// steps is texts that can't be true together, though it takes many steps from
+// their variables, which stand first, to find that out. To go through all that
+// these may be is hopeless for the first ones, and best for the last one.
+func steps() [][]string {
+	const rest = "(srem (zext 64 v2:3) (zext 64 v2:3))"
+	const ones = "(urem #64:18446744073709551615 " + rest + ")"
+	return [][]string{
+		{"(eq (neg v1:8) #8:1)", "(not (eq (srem v0:8 v1:8) #8:0))"},
+		{"(eq (neg v1:16) #16:1)", "(not (eq (srem v0:16 v1:16) #16:0))"},
+		{"(eq (neg v1:32) #32:1)", "(not (eq (srem v0:32 v1:32) #32:0))"},
+		{"(eq (ashr (sub " + rest + " " + ones + ") " + ones + ") " + ones + ")"},
+	}
+}
+
+// TestSteps: neither variables that are chosen first, again and again, nor what
+// is learnt of them alone are in the way for long.
+func TestSteps(t *testing.T) {
+	for _, texts := range steps() {
+		s := term.New()
+		b, _ := blast.New(s)
+		var assume []int
+		for _, x := range texts {
+			id, e := text.Get(s, x)
+			if e != api.OK {
+				t.Fatalf("Get(%s): %d", x, e)
+			}
+			l, _ := b.Bits(id)
+			assume = append(assume, l...)
+		}
+		k := made(t, b.Cnf())
+		if answer := k.ask(assume, 10000); answer != api.SatNo {
+			t.Errorf("%s: %d", texts, answer)
+		}
+		t.Logf("%s: %d conflicts", texts, k.met)
 	}
 }

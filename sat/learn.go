@@ -67,7 +67,7 @@ func (s *Solver) analyse(broken int32) []literal {
 				continue
 			}
 			s.mark(v, met)
-			s.order.Bump(v, s.by)
+			s.order.Bump(v, s.by*(1+s.lean*float64(v)))
 			if int(s.levels[v]) == s.level() {
 				left++
 			} else {

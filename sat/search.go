@@ -14,6 +14,13 @@ const (
 // run is how many conflicts there are till it begins anew, where luby says 1.
 const run = 64
 
+// lean says which of the variables come first that were raised alike: in one run
+// the first of them, in the next one the last. Where clauses say what follows,
+// step by step, of a few variables, these stand ahead of all others. To choose
+// these alone, again and again, is the shortest way if they are few, and none if
+// they are many: then something has to be learnt of the steps.
+const lean = 1e-10
+
 // search looks for a model in which the assumptions hold. Where a clause can't
 // hold though nothing was chosen there is none; all else are conflicts.
 func (s *Solver) search(assume []literal, budget int) api.Sat {
@@ -67,6 +74,7 @@ func (s *Solver) give(assume []literal) bool {
 // beginAnew undoes all choices, and drops clauses if there are too many.
 func (s *Solver) beginAnew() {
 	s.undo(given)
+	s.lean = -s.lean
 	if len(s.learnt) > s.atMost {
 		s.thin()
 		s.atMost += moreAtMost
